@@ -80,6 +80,15 @@ func depthsOf(list []impl.Rect) depths {
 	return d
 }
 
+// areasOf adds the areas of all rectangles, also of what they share.
+func areasOf(list []impl.Rect) int {
+	all := 0
+	for _, r := range list {
+		all += impl.AreaOf(r)
+	}
+	return all
+}
+
 func rect(left, low, right, high int) impl.Rect {
 	return impl.Rect{Left: left, Low: low, Right: right, High: high}
 }
